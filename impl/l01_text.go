@@ -6,7 +6,10 @@ import (
 	"strings"
 )
 
-const maxDec = 999999999
+const (
+	maxDec  = 999999999
+	lineEnd = "\r\n"
+)
 
 func DecText(n int) string {
 	return strconv.Itoa(n)
@@ -67,7 +70,7 @@ func Find(s string, t string) int {
 func CountLines(s string) int {
 	count := 0
 	last := ""
-	for piece := range pieces(s, "\r\n") {
+	for piece := range pieces(s, lineEnd) {
 		count++
 		last = piece
 	}
